@@ -10,7 +10,9 @@ import (
 	"clerestory/alpha"
 	"clerestory/api"
 	"clerestory/bind"
+	"clerestory/run"
 	"clerestory/tree"
+	"clerestory/value"
 )
 
 // maker makes programs of ints by chance, with few names, so that many of them hide others.
@@ -177,125 +179,11 @@ func TestWhatWasRenamedIsRenamedBack(t *testing.T) {
 	}
 }
 
-// P10.3: programs that are alike print the same. What runs them here finds what a name stands for by the name alone, while it runs.
-
-// stack is what the names stand for in a Block, and in those around it.
-type stack struct {
-	outer *stack
-	own   map[string]int64
-}
-
-func (s *stack) within() *stack { return &stack{s, map[string]int64{}} }
-
-func (s *stack) of(name string) map[string]int64 {
-	for _, has := s.own[name]; !has; _, has = s.own[name] {
-		s = s.outer
-	}
-	return s.own
-}
-
-// world runs programs of ints for so many steps.
-type world struct {
-	funcs map[string]api.Node
-	steps int
-	out   []int64
-}
+// P10.3: programs that are alike print the same.
 
 // printed tells what the program prints, as far as the steps go.
-func printed(n api.Node) (out []int64) {
-	w := &world{map[string]api.Node{}, 300, nil}
-	for _, f := range n.Kids {
-		w.funcs[f.Text] = f
-	}
-	defer func() {
-		if end := recover(); end == w {
-			out = w.out
-		} else if end != nil {
-			panic(end)
-		}
-	}()
-	w.call("main", nil)
-	return w.out
-}
-
-func (w *world) step() {
-	if w.steps--; w.steps < 0 {
-		panic(w)
-	}
-}
-
-func (w *world) call(name string, kids []int64) int64 {
-	f := w.funcs[name]
-	params := (*stack)(nil).within()
-	for at, param := range f.Kids[0].Kids {
-		params.own[param.Text] = kids[at]
-	}
-	value, _ := w.block(f.Kids[1], params)
-	return value
-}
-
-// block tells what a Return in it tells, and whether one was met.
-func (w *world) block(n api.Node, around *stack) (value int64, met bool) {
-	s := around.within()
-	for _, kid := range n.Kids {
-		if value, met = w.statement(kid, s); met {
-			return value, true
-		}
-	}
-	return 0, false
-}
-
-func (w *world) statement(n api.Node, s *stack) (value int64, met bool) {
-	w.step()
-	switch n.Kind {
-	case api.Var:
-		s.own[n.Text] = w.expression(n.Kids[0], s)
-	case api.Set:
-		s.of(n.Kids[0].Text)[n.Kids[0].Text] = w.expression(n.Kids[1], s)
-	case api.Return:
-		return w.expression(n.Kids[0], s), true
-	case api.Print:
-		w.out = append(w.out, w.expression(n.Kids[0], s))
-	case api.Do:
-		w.expression(n.Kids[0], s)
-	case api.Block:
-		return w.block(n, s)
-	case api.If:
-		return w.block(n.Kids[2-w.expression(n.Kids[0], s)], s)
-	case api.While:
-		for !met && w.expression(n.Kids[0], s) == 1 {
-			value, met = w.block(n.Kids[1], s)
-		}
-	}
-	return value, met
-}
-
-func (w *world) expression(n api.Node, s *stack) int64 {
-	w.step()
-	var kids []int64
-	for _, kid := range n.Kids {
-		kids = append(kids, w.expression(kid, s))
-	}
-	switch n.Kind {
-	case api.Int:
-		return n.Num
-	case api.Name:
-		return s.of(n.Text)[n.Text]
-	case api.Call:
-		return w.call(n.Text, kids)
-	}
-	switch n.Text {
-	case "+":
-		return kids[0] + kids[1]
-	case "-":
-		return kids[0] - kids[1]
-	case "*":
-		return kids[0] * kids[1]
-	}
-	if kids[0] < kids[1] {
-		return 1
-	}
-	return 0
+func printed(n api.Node) string {
+	return value.Text(run.Run(n, 300).Out...)
 }
 
 // changed tells n with some names of binders and their uses, or of one node, exchanged by chance, whatever comes of it.
@@ -322,7 +210,7 @@ func TestProgramsThatAreAlikePrintTheSame(t *testing.T) {
 	alike, others := 0, 0
 	for range 1500 {
 		n := program(t, m.file())
-		out := fmt.Sprint(printed(n))
+		out := printed(n)
 		for range 4 {
 			other := m.changed(n)
 			if !isProgram(other) || mainOf(other) != mainOf(n) || tree.Same(n, other) {
@@ -330,11 +218,11 @@ func TestProgramsThatAreAlikePrintTheSame(t *testing.T) {
 			}
 			want := plainSame(n, other)
 			checkSame(t, n, other, want)
-			prints := fmt.Sprint(printed(other)) == out
+			prints := printed(other) == out
 			if want && !prints {
-				t.Fatalf("%sand\n%sare alike, but print %s, %v", text(n), text(other), out, printed(other))
+				t.Fatalf("%sand\n%sare alike, but print %s, %s", text(n), text(other), out, printed(other))
 			}
-			if want && out != "[]" {
+			if want && out != "" {
 				alike++
 			}
 			if !prints {
